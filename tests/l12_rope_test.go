@@ -262,7 +262,8 @@ func isZeroRope(r impl.Rope) bool { return len(r.Boughs) == 0 }
 
 func sameRope(a, b impl.Rope) bool { return slices.Equal(a.Boughs, b.Boughs) }
 
-// outset is what a rope or a change begins with when it is told: some are very long.
+// outset is what a rope, a change or a history begins with when it is told: some
+// are very long.
 func outset(x any) string {
 	s := fmt.Sprintf("%v", x)
 	return s[:min(len(s), 300)]
